@@ -1,11 +1,13 @@
 package tests
 
 import (
+	"math/rand"
 	"reflect"
 	"slices"
 	"strings"
 	"sync"
 	"testing"
+	"unsafe"
 
 	"loop.example/g00135/impl"
 )
@@ -16,6 +18,40 @@ var callTexts = []string{
 	strings.Repeat("n", impl.MaxName), strings.Repeat("n", impl.MaxName+1), strings.Repeat("9", 18), strings.Repeat("9", 19),
 	strings.Repeat("(", impl.MaxTokens), strings.Repeat("(", impl.MaxTokens+1), strings.Repeat("(", impl.MaxTokens-1) + "x",
 	strings.Repeat(" ", impl.MaxText), strings.Repeat(" ", impl.MaxText+1), strings.Repeat("x\n", impl.MaxText),
+	wholeText, "func f() {", "func f() { x }", "func f() { select { case a := b: } }", "func f() " + strings.Repeat("{", 61), "func f() {" + strings.Repeat("break;", 600) + "}",
+	strings.Repeat("func f() {}\n", 299), strings.Repeat("func f() {}\n", 300), "func f() { a := " + strings.Repeat("1+", 1900) + "1 }", "func f() {" + strings.Repeat("if a {} else ", 58) + "{}}",
+}
+
+// wholeText has all that a tree may have.
+const wholeText = `func g(a int, b bool, c chan int) int {
+	x := make(chan int, 2); y := make(chan int)
+	y = x
+	a++; a--
+	for a < 3 && !b { x <- -a*2; break }
+	for { continue }
+	if b { <-c } else if a == 1 { close(c) } else { panic(a % 2) }
+	select {
+	case v := <-x: print(v)
+	case <-y: { return g(a, true, c) }
+	case c <- 7:
+	default: go g(1, false, c); defer g((2), b || b, y)
+	}
+	return 999999999999999999
+}
+func h() { return }
+`
+
+// callTrees are trees right and wrong.
+func callTrees() []impl.Node {
+	list := []impl.Node{{}, {Kind: -5, N: -1, Name: "\xff"}, node(impl.NdFile), plainOf(impl.NdPick), wideTree(597), wideTree(598), deepTree(595), deepTree(5000), leftTree(5000), fileOf(node(impl.NdPrint), node(impl.NdPrint, numbered(impl.NdInt, -1)))}
+	for kind := range len(kidLetters) {
+		list = append(list, around(plainOf(kind)), plainOf(kind))
+	}
+	for _, text := range callTexts {
+		n, _, _ := impl.Parse(text)
+		list = append(list, n)
+	}
+	return list
 }
 
 type answers struct {
@@ -25,12 +61,19 @@ type answers struct {
 	list      []impl.Token
 	code, at  int
 	wordAfter string
+	tree      impl.Node
+	treeCode  int
+	treeAt    int
+	right     bool
+	size      int
 }
 
 func callAll(text string, code int) answers {
 	a := answers{name: impl.NameOK(text), codeOf: impl.CodeOf(text), word: impl.CodeWord(code)}
 	a.list, a.code, a.at = impl.Tokens(text)
 	a.wordAfter = impl.CodeWord(a.codeOf)
+	a.tree, a.treeCode, a.treeAt = impl.Parse(text)
+	a.right, a.size = impl.TreeOK(a.tree), impl.Size(a.tree)
 	return a
 }
 
@@ -104,5 +147,140 @@ func TestAllElseIsZeroBesideACode(t *testing.T) {
 		if codes[code] == 0 {
 			t.Errorf("no text has code %d", code)
 		}
+	}
+}
+
+func TestAllElseIsZeroBesideACodeOfParse(t *testing.T) {
+	codes := map[int]int{}
+	for _, text := range callTexts {
+		n, code, at := impl.Parse(text)
+		codes[code]++
+		if code != impl.OK && (n.Kind != 0 || n.N != 0 || n.Name != "" || len(n.Kids) != 0) {
+			t.Errorf("Parse(%.30q) has a tree beside code %d", text, code)
+		}
+		if code == impl.OK && (at != 0 || !impl.TreeOK(n)) {
+			t.Errorf("Parse(%.30q) has place %d, or a tree that is not right", text, at)
+		}
+	}
+	for _, code := range []int{impl.OK, impl.ErrSyntax, impl.ErrMany, impl.ErrLong, impl.ErrForm, impl.ErrDeep} {
+		if codes[code] == 0 {
+			t.Errorf("no text has code %d", code)
+		}
+	}
+}
+
+func TestAnyTextHasATreeOrAFault(t *testing.T) {
+	pieces := slices.Concat(allSigns, takenWords, []string{";", "\n", "x", "f", "1", " ", "func f() {", "}\n", "(", ")", "&", "007", "print(1)", "a := ", "if a {", "select { case "})
+	draw := rand.New(rand.NewSource(10))
+	for range 30000 {
+		var text strings.Builder
+		if draw.Intn(2) == 0 {
+			text.WriteString("func f() {")
+		}
+		for range draw.Intn(16) {
+			text.WriteString(pieces[draw.Intn(len(pieces))] + " "[:draw.Intn(2)])
+		}
+		n, code, at := impl.Parse(text.String())
+		switch code {
+		case impl.OK:
+			if !impl.TreeOK(n) || at != 0 {
+				t.Fatalf("Parse(%q) = %s at %d", text.String(), show(n), at)
+			}
+		case impl.ErrSyntax, impl.ErrForm:
+			if at < 0 || at > text.Len() || n.Kind != 0 {
+				t.Fatalf("Parse(%q) has code %d at %d", text.String(), code, at)
+			}
+		default:
+			t.Fatalf("Parse(%q) has code %d", text.String(), code)
+		}
+	}
+}
+
+// wholeLists calls look with each list of kids in a tree, and with what is behind its end.
+func wholeLists(n impl.Node, look func([]impl.Node)) {
+	for _, kid := range n.Kids {
+		wholeLists(kid, look)
+	}
+	look(n.Kids[:cap(n.Kids)])
+}
+
+func TestTreesAreNewMemory(t *testing.T) {
+	first, _, _ := impl.Parse(wholeText)
+	kept := show(first)
+	second, _, _ := impl.Parse(wholeText)
+	seen := map[*impl.Node]bool{}
+	for _, n := range []impl.Node{first, second} {
+		wholeLists(n, func(list []impl.Node) {
+			for i := range list {
+				if seen[&list[i]] {
+					t.Error("two lists share memory")
+				}
+				seen[&list[i]] = true
+			}
+		})
+	}
+	wholeLists(first, func(list []impl.Node) {
+		for i := range list {
+			list[i] = impl.Node{Kind: 1, N: 7, Name: "spoilt"}
+		}
+	})
+	third, code, at := impl.Parse(wholeText)
+	if code != impl.OK || at != 0 || show(second) != kept || show(third) != kept {
+		t.Error("what was written into an answer is seen in another one")
+	}
+}
+
+// within says that a text lies in the memory of another one.
+func within(part, whole string) bool {
+	p, w := uintptr(unsafe.Pointer(unsafe.StringData(part))), uintptr(unsafe.Pointer(unsafe.StringData(whole)))
+	return part != "" && w <= p && p < w+uintptr(len(whole))
+}
+
+func TestTextsOfAnswersAreNewMemory(t *testing.T) {
+	text := strings.Clone(wholeText)
+	list, _, _ := impl.Tokens(text)
+	for _, token := range list {
+		if within(token.Text, text) {
+			t.Errorf("the token %v lies in the text that was handed in", token)
+		}
+	}
+	n, _, _ := impl.Parse(text)
+	wholeLists(n, func(list []impl.Node) {
+		for _, kid := range list {
+			if within(kid.Name, text) {
+				t.Errorf("the name %s lies in the text that was handed in", kid.Name)
+			}
+		}
+	})
+}
+
+// withRoom copies a tree; behind the end of each list of kids there is one more node.
+func withRoom(n impl.Node) impl.Node {
+	kids := make([]impl.Node, 0, len(n.Kids)+1)
+	for _, kid := range n.Kids {
+		kids = append(kids, withRoom(kid))
+	}
+	n.Kids = append(kids, impl.Node{Kind: -9, Name: "behind"})[:len(kids)]
+	return n
+}
+
+func TestTreesHandedInAreNotChanged(t *testing.T) {
+	for _, tree := range callTrees() {
+		given, same := withRoom(tree), withRoom(tree)
+		right, size := impl.TreeOK(given), impl.Size(given)
+		if again, other := impl.TreeOK(same), impl.Size(same); again != right || other != size {
+			t.Error("alike trees have other answers")
+		}
+		if right != impl.TreeOK(tree) || size != impl.Size(tree) {
+			t.Error("what is behind the end of a list has a part in the answer")
+		}
+		if !reflect.DeepEqual(given, withRoom(tree)) {
+			t.Error("a tree was changed")
+		}
+		wholeLists(given, func(list []impl.Node) {
+			if last := list[len(list)-1]; last.Kind != -9 || last.N != 0 || last.Name != "behind" || last.Kids != nil {
+				t.Error("something was written behind the end of a list")
+			}
+		})
 	}
 }
