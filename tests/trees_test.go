@@ -355,11 +355,14 @@ func TestVeryGreatTrees(t *testing.T) {
 	}
 }
 
-// A tree without end is none, and is told so.
-func TestATreeInItself(t *testing.T) {
+// A list of kids that stands in itself is no tree, but every call ends.
+func TestAListInItself(t *testing.T) {
 	kids := make([]impl.Node, 1)
 	kids[0] = impl.Node{Kind: impl.NdBlock, Kids: kids}
 	if impl.TreeOK(fileOf(kids...)) {
 		t.Error("a block that stands in itself is right")
+	}
+	if got := impl.Size(fileOf(kids...)); got != 0 {
+		t.Errorf("a block that stands in itself has %d nodes", got)
 	}
 }
