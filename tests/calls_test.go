@@ -1,6 +1,7 @@
 package tests
 
 import (
+	"math"
 	"math/rand"
 	"reflect"
 	"slices"
@@ -66,6 +67,8 @@ type answers struct {
 	treeAt    int
 	right     bool
 	size      int
+	text      string
+	textCode  int
 }
 
 func callAll(text string, code int) answers {
@@ -74,6 +77,7 @@ func callAll(text string, code int) answers {
 	a.wordAfter = impl.CodeWord(a.codeOf)
 	a.tree, a.treeCode, a.treeAt = impl.Parse(text)
 	a.right, a.size = impl.TreeOK(a.tree), impl.Size(a.tree)
+	a.text, a.textCode = impl.Print(a.tree)
 	return a
 }
 
@@ -169,6 +173,63 @@ func TestAllElseIsZeroBesideACodeOfParse(t *testing.T) {
 	}
 }
 
+func TestAllElseIsZeroBesideACodeOfPrint(t *testing.T) {
+	codes := map[int]int{}
+	for _, tree := range callTrees() {
+		text, code := impl.Print(tree)
+		codes[code]++
+		if right := impl.TreeOK(tree); right != (code == impl.OK) || !right && (code != impl.ErrBad || text != "") {
+			t.Errorf("Print has code %d and %.30q where right is %v", code, text, right)
+		}
+	}
+	if codes[impl.OK] == 0 || codes[impl.ErrBad] == 0 || len(codes) != 2 {
+		t.Error("trees by code:", codes)
+	}
+}
+
+// Trees by chance, of which up to two things were changed, have a text just where they are right.
+func TestAnyTreeHasATextOrNone(t *testing.T) {
+	draw := rand.New(rand.NewSource(13))
+	codes := map[int]int{}
+	for range 20000 {
+		g := &grower{draw: draw, left: 5 + draw.Intn(40)}
+		n := g.file(2 + draw.Intn(4))
+		for range draw.Intn(3) {
+			spoil(&n, draw)
+		}
+		text, code := impl.Print(n)
+		codes[code]++
+		if right := impl.TreeOK(n); right != (code == impl.OK) || !right && (code != impl.ErrBad || text != "") {
+			t.Fatalf("Print has code %d and %.300q where right is %v", code, text, right)
+		}
+		if code == impl.OK {
+			wantAgain(t, n, text)
+		}
+	}
+	if codes[impl.OK] < 1000 || codes[impl.ErrBad] < 1000 {
+		t.Error("trees by code:", codes)
+	}
+}
+
+// spoil changes one thing of one node of a tree.
+func spoil(n *impl.Node, draw *rand.Rand) {
+	for len(n.Kids) > 0 && draw.Intn(4) > 0 {
+		n = &n.Kids[draw.Intn(len(n.Kids))]
+	}
+	switch draw.Intn(5) {
+	case 0:
+		n.Kind = draw.Intn(40) - 4
+	case 1:
+		n.N = []int{math.MinInt, -1, 0, 1, 2, 3, 4, math.MaxInt}[draw.Intn(8)]
+	case 2:
+		n.Name = someNames[draw.Intn(len(someNames))]
+	case 3:
+		n.Kids = append(n.Kids, plainOf(draw.Intn(len(kidLetters))))
+	default:
+		n.Kids = n.Kids[:draw.Intn(len(n.Kids)+1)]
+	}
+}
+
 func TestAnyTextHasATreeOrAFault(t *testing.T) {
 	pieces := slices.Concat(allSigns, takenWords, []string{";", "\n", "x", "f", "1", " ", "func f() {", "}\n", "(", ")", "&", "007", "print(1)", "a := ", "if a {", "select { case "})
 	draw := rand.New(rand.NewSource(10))
@@ -186,6 +247,8 @@ func TestAnyTextHasATreeOrAFault(t *testing.T) {
 			if !impl.TreeOK(n) || at != 0 {
 				t.Fatalf("Parse(%q) = %s at %d", text.String(), show(n), at)
 			}
+			printed, _ := impl.Print(n)
+			wantAgain(t, n, printed)
 		case impl.ErrSyntax, impl.ErrForm:
 			if at < 0 || at > text.Len() || n.Kind != 0 {
 				t.Fatalf("Parse(%q) has code %d at %d", text.String(), code, at)
@@ -252,6 +315,18 @@ func TestTextsOfAnswersAreNewMemory(t *testing.T) {
 			}
 		}
 	})
+	printed, _ := impl.Print(n)
+	again, _ := impl.Print(n)
+	if within(printed, again) || within(again, printed) {
+		t.Error("two answers of Print share memory")
+	}
+	wholeLists(n, func(list []impl.Node) {
+		for _, kid := range list {
+			if within(kid.Name, printed) || within(printed, kid.Name) {
+				t.Errorf("the name %s lies in the text that is answered", kid.Name)
+			}
+		}
+	})
 }
 
 // withRoom copies a tree; behind the end of each list of kids there is one more node.
@@ -268,11 +343,18 @@ func TestTreesHandedInAreNotChanged(t *testing.T) {
 	for _, tree := range callTrees() {
 		given, same := withRoom(tree), withRoom(tree)
 		right, size := impl.TreeOK(given), impl.Size(given)
+		text, code := impl.Print(given)
 		if again, other := impl.TreeOK(same), impl.Size(same); again != right || other != size {
 			t.Error("alike trees have other answers")
 		}
+		if again, other := impl.Print(same); again != text || other != code {
+			t.Error("alike trees have other texts")
+		}
 		if right != impl.TreeOK(tree) || size != impl.Size(tree) {
 			t.Error("what is behind the end of a list has a part in the answer")
+		}
+		if plain, other := impl.Print(tree); plain != text || other != code {
+			t.Error("what is behind the end of a list has a part in the text")
 		}
 		if !reflect.DeepEqual(given, withRoom(tree)) {
 			t.Error("a tree was changed")
