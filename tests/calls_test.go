@@ -20,6 +20,7 @@ var callTexts = []string{
 	strings.Repeat("(", impl.MaxTokens), strings.Repeat("(", impl.MaxTokens+1), strings.Repeat("(", impl.MaxTokens-1) + "x",
 	strings.Repeat(" ", impl.MaxText), strings.Repeat(" ", impl.MaxText+1), strings.Repeat("x\n", impl.MaxText),
 	wholeText, "func f() {", "func f() { x }", "func f() { select { case a := b: } }", "func f() " + strings.Repeat("{", 61), "func f() {" + strings.Repeat("break;", 600) + "}",
+	"func f() { a := 1; a := 2 }", "func f() { print(x) }", "func f() { print(1 + true) }", "func f() { f(1) }", "func f() int {}", "func f() { break }", "func TestA() {}\nfunc TestB() { TestA() }",
 	strings.Repeat("func f() {}\n", 299), strings.Repeat("func f() {}\n", 300), "func f() { a := " + strings.Repeat("1+", 1900) + "1 }", "func f() {" + strings.Repeat("if a {} else ", 58) + "{}}",
 }
 
@@ -69,6 +70,11 @@ type answers struct {
 	size      int
 	text      string
 	textCode  int
+	check     [2]int
+	types     []int
+	typesEnd  [2]int
+	tests     []string
+	testsCode int
 }
 
 func callAll(text string, code int) answers {
@@ -78,6 +84,9 @@ func callAll(text string, code int) answers {
 	a.tree, a.treeCode, a.treeAt = impl.Parse(text)
 	a.right, a.size = impl.TreeOK(a.tree), impl.Size(a.tree)
 	a.text, a.textCode = impl.Print(a.tree)
+	a.check[0], a.check[1] = impl.Check(a.tree)
+	a.types, a.typesEnd[0], a.typesEnd[1] = impl.TypesOf(a.tree)
+	a.tests, a.testsCode = impl.TestsOf(a.tree)
 	return a
 }
 
@@ -184,6 +193,51 @@ func TestAllElseIsZeroBesideACodeOfPrint(t *testing.T) {
 	}
 	if codes[impl.OK] == 0 || codes[impl.ErrBad] == 0 || len(codes) != 2 {
 		t.Error("trees by code:", codes)
+	}
+}
+
+func TestAllElseIsZeroBesideACodeOfCheck(t *testing.T) {
+	codes := map[int]int{}
+	for _, tree := range callTrees() {
+		code, at := impl.Check(tree)
+		codes[code]++
+		wantCheck(t, tree, code, at)
+		if right := impl.TreeOK(tree); right == (code == impl.ErrBad) || (code == impl.OK || code == impl.ErrBad) && at != 0 || right && at >= impl.Size(tree) {
+			t.Errorf("Check has code %d at %d where right is %v", code, at, right)
+		}
+	}
+	for _, code := range []int{impl.OK, impl.ErrBad, impl.ErrName, impl.ErrTwice, impl.ErrType, impl.ErrCount, impl.ErrResult, impl.ErrPlace} {
+		if codes[code] == 0 {
+			t.Errorf("no tree has code %d", code)
+		}
+	}
+}
+
+func TestTypesAndTestsAreNewMemory(t *testing.T) {
+	tree := treeOf(t, "func TestA() { x := 1 + 2; print(x) }\nfunc TestB() { TestA() }\nfunc TestC() {}")
+	types, _, _ := impl.TypesOf(tree)
+	names, _ := impl.TestsOf(tree)
+	keptTypes, keptNames := slices.Clone(types), slices.Clone(names)
+	secondTypes, _, _ := impl.TypesOf(tree)
+	secondNames, _ := impl.TestsOf(tree)
+	for i := range types[:cap(types)] {
+		types[:cap(types)][i] = -7
+	}
+	for i := range names[:cap(names)] {
+		names[:cap(names)][i] = "spoilt"
+	}
+	thirdTypes, _, _ := impl.TypesOf(tree)
+	thirdNames, _ := impl.TestsOf(tree)
+	if !slices.Equal(secondTypes, keptTypes) || !slices.Equal(thirdTypes, keptTypes) {
+		t.Error("what was written into types is seen in other ones:", secondTypes, thirdTypes)
+	}
+	if !slices.Equal(secondNames, keptNames) || !slices.Equal(thirdNames, keptNames) {
+		t.Error("what was written into names of tests is seen in other ones:", secondNames, thirdNames)
+	}
+	for i, function := range tree.Kids {
+		if within(secondNames[i], function.Name) || within(secondNames[i], thirdNames[i]) {
+			t.Errorf("the name %s lies in other memory", function.Name)
+		}
 	}
 }
 
@@ -353,6 +407,10 @@ func TestTreesHandedInAreNotChanged(t *testing.T) {
 		if right != impl.TreeOK(tree) || size != impl.Size(tree) {
 			t.Error("what is behind the end of a list has a part in the answer")
 		}
+		checkCode, at := impl.Check(given)
+		wantCheck(t, given, checkCode, at)
+		wantCheck(t, same, checkCode, at)
+		wantCheck(t, tree, checkCode, at)
 		if plain, other := impl.Print(tree); plain != text || other != code {
 			t.Error("what is behind the end of a list has a part in the text")
 		}
