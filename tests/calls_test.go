@@ -21,6 +21,7 @@ var callTexts = []string{
 	strings.Repeat(" ", impl.MaxText), strings.Repeat(" ", impl.MaxText+1), strings.Repeat("x\n", impl.MaxText),
 	wholeText, "func f() {", "func f() { x }", "func f() { select { case a := b: } }", "func f() " + strings.Repeat("{", 61), "func f() {" + strings.Repeat("break;", 600) + "}",
 	"func f() { a := 1; a := 2 }", "func f() { print(x) }", "func f() { print(1 + true) }", "func f() { f(1) }", "func f() int {}", "func f() { break }", "func TestA() {}\nfunc TestB() { TestA() }",
+	runText, "func TestA() { for { print(1) } }", "func TestA() { defer TestA(); TestA() }", "func TestA() { select {} }", "func TestA() { x := 1 / 0; print(x) }",
 	strings.Repeat("func f() {}\n", 299), strings.Repeat("func f() {}\n", 300), "func f() { a := " + strings.Repeat("1+", 1900) + "1 }", "func f() {" + strings.Repeat("if a {} else ", 58) + "{}}",
 }
 
@@ -41,6 +42,23 @@ const wholeText = `func g(a int, b bool, c chan int) int {
 	return 999999999999999999
 }
 func h() { return }
+`
+
+// runText has a test with some goroutines.
+const runText = `func give(c chan int, n int) { defer close(c); for n > 0 { c <- n; n-- } }
+func TestA() {
+	c := make(chan int); d := make(chan int, 2)
+	go give(c, 2); go give(d, 3)
+	i := 0
+	for i < 6 {
+		select {
+		case v := <-c: print(v)
+		case v := <-d: print(v * 10)
+		}
+		i++
+	}
+	panic(i)
+}
 `
 
 // callTrees are trees right and wrong.
@@ -75,6 +93,8 @@ type answers struct {
 	typesEnd  [2]int
 	tests     []string
 	testsCode int
+	runs      [3]impl.Run
+	runCodes  [3]int
 }
 
 func callAll(text string, code int) answers {
@@ -87,6 +107,9 @@ func callAll(text string, code int) answers {
 	a.check[0], a.check[1] = impl.Check(a.tree)
 	a.types, a.typesEnd[0], a.typesEnd[1] = impl.TypesOf(a.tree)
 	a.tests, a.testsCode = impl.TestsOf(a.tree)
+	for i, script := range [][]int{nil, {1, 2, 3, 4, 5, 6, 7, 8, 9}, {code}} {
+		a.runs[i], a.runCodes[i] = impl.RunTest(a.tree, "TestA", script, 1+50*i)
+	}
 	return a
 }
 
@@ -393,6 +416,20 @@ func withRoom(n impl.Node) impl.Node {
 	return n
 }
 
+func wantRunsOfAlikeTrees(t *testing.T, trees ...impl.Node) {
+	t.Helper()
+	script := []int{1, 1, 2, 1, 3, -5, -6}[:5]
+	first, code := impl.RunTest(trees[0], "TestA", script, 60)
+	for _, n := range trees[1:] {
+		if again, other := impl.RunTest(n, "TestA", script, 60); other != code || !reflect.DeepEqual(again, first) {
+			t.Errorf("alike trees have other runs: %v with code %d and %v with code %d", first, code, again, other)
+		}
+	}
+	if !slices.Equal(script[:cap(script)], []int{1, 1, 2, 1, 3, -5, -6}) {
+		t.Errorf("a script was changed: %v", script[:cap(script)])
+	}
+}
+
 func TestTreesHandedInAreNotChanged(t *testing.T) {
 	for _, tree := range callTrees() {
 		given, same := withRoom(tree), withRoom(tree)
@@ -414,6 +451,7 @@ func TestTreesHandedInAreNotChanged(t *testing.T) {
 		if plain, other := impl.Print(tree); plain != text || other != code {
 			t.Error("what is behind the end of a list has a part in the text")
 		}
+		wantRunsOfAlikeTrees(t, given, same, tree)
 		if !reflect.DeepEqual(given, withRoom(tree)) {
 			t.Error("a tree was changed")
 		}
