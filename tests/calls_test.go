@@ -1,6 +1,7 @@
 package tests
 
 import (
+	"fmt"
 	"math"
 	"math/rand"
 	"reflect"
@@ -45,7 +46,8 @@ func h() { return }
 `
 
 // runText has a test with some goroutines.
-const runText = `func give(c chan int, n int) { defer close(c); for n > 0 { c <- n; n-- } }
+const runText = `func shut(c chan int) { close(c) }
+func give(c chan int, n int) { defer shut(c); for n > 0 { c <- n; n-- } }
 func TestA() {
 	c := make(chan int); d := make(chan int, 2)
 	go give(c, 2); go give(d, 3)
@@ -95,6 +97,10 @@ type answers struct {
 	testsCode int
 	runs      [3]impl.Run
 	runCodes  [3]int
+	reports   [6]impl.Report
+	codes     [6]int
+	same      bool
+	within    [2]int
 }
 
 func callAll(text string, code int) answers {
@@ -109,7 +115,15 @@ func callAll(text string, code int) answers {
 	a.tests, a.testsCode = impl.TestsOf(a.tree)
 	for i, script := range [][]int{nil, {1, 2, 3, 4, 5, 6, 7, 8, 9}, {code}} {
 		a.runs[i], a.runCodes[i] = impl.RunTest(a.tree, "TestA", script, 1+50*i)
+		a.reports[i], a.codes[i] = impl.Explore(a.tree, "TestA", 1+50*i, 20*i)
+		a.reports[3+i], a.codes[3+i] = impl.Sleep(a.tree, "TestA", 1+50*i, 20*i)
 	}
+	first := impl.Seen{Kind: code, Trace: a.types}
+	for _, seen := range a.reports[1].List {
+		first = seen
+	}
+	a.same = impl.SameSeen(first, impl.Seen{Kind: code, Trace: a.types})
+	a.within[0], a.within[1] = impl.Within(a.reports[2].List, []impl.Seen{first})
 	return a
 }
 
@@ -427,6 +441,81 @@ func wantRunsOfAlikeTrees(t *testing.T, trees ...impl.Node) {
 	}
 	if !slices.Equal(script[:cap(script)], []int{1, 1, 2, 1, 3, -5, -6}) {
 		t.Errorf("a script was changed: %v", script[:cap(script)])
+	}
+	for _, way := range bothWays {
+		first, code := way.call(trees[0], "TestA", 60, 15)
+		for _, n := range trees[1:] {
+			if again, other := way.call(n, "TestA", 60, 15); other != code || !reflect.DeepEqual(again, first) {
+				t.Errorf("alike trees have other reports: %v with code %d and %v with code %d", first, code, again, other)
+			}
+		}
+	}
+}
+
+// reportLists are all lists of numbers of a report, with what is behind their ends.
+func reportLists(r impl.Report) [][]int {
+	var lists [][]int
+	for _, seen := range r.List[:cap(r.List)] {
+		lists = append(lists, seen.Trace[:cap(seen.Trace)], seen.Script[:cap(seen.Script)])
+	}
+	return lists
+}
+
+func TestReportsAreNewMemory(t *testing.T) {
+	tree := treeOf(t, runText)
+	for _, way := range bothWays {
+		first, _ := way.call(tree, "TestA", 300, 100)
+		kept := fmt.Sprint(first)
+		second, _ := way.call(tree, "TestA", 300, 100)
+		if len(first.List) < 4 {
+			t.Errorf("%s has too little: %v", way.name, first)
+		}
+		seenAt := map[*int]bool{}
+		for _, r := range []impl.Report{first, second} {
+			for _, list := range reportLists(r) {
+				for i := range list {
+					if seenAt[&list[i]] {
+						t.Fatalf("%s: two lists share memory", way.name)
+					}
+					seenAt[&list[i]] = true
+				}
+			}
+		}
+		for _, list := range reportLists(first) {
+			for i := range list {
+				list[i] = -9
+			}
+		}
+		for i := range first.List[:cap(first.List)] {
+			first.List[:cap(first.List)][i] = impl.Seen{Kind: -9}
+		}
+		third, _ := way.call(tree, "TestA", 300, 100)
+		if fmt.Sprint(second) != kept || fmt.Sprint(third) != kept {
+			t.Errorf("%s: what was written into a report is seen in another one", way.name)
+		}
+	}
+}
+
+func TestSeensHandedInAreNotChanged(t *testing.T) {
+	made := func() []impl.Seen {
+		list := []impl.Seen{{Kind: 1, Trace: []int{1, 2, 3}, Script: []int{4, 5}}, {Kind: 2, Code: 3, Value: 4}, {Kind: -9, Trace: []int{9}}}
+		list[0].Trace, list[0].Script = list[0].Trace[:2], list[0].Script[:1]
+		return list[:2]
+	}
+	a, b := made(), made()
+	impl.Within(a, b)
+	impl.Within(b[:1], a[1:])
+	impl.SameSeen(a[0], b[0])
+	impl.SameSeen(a[0], b[1])
+	for _, list := range [][]impl.Seen{a, b} {
+		whole, want := list[:3], made()[:3]
+		if !reflect.DeepEqual(whole, want) || whole[0].Trace[:3][2] != 3 || whole[0].Script[:2][1] != 5 {
+			t.Errorf("lists of what was seen were changed: %v", whole)
+		}
+	}
+	// What is behind the end of a trace has no part in it.
+	if !impl.SameSeen(a[0], impl.Seen{Kind: 1, Trace: []int{1, 2}}) {
+		t.Error("what is behind the end of a list has a part in the answer")
 	}
 }
 

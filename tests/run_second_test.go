@@ -12,6 +12,7 @@ import (
 // and each move is a function in a list.
 
 type pipe struct {
+	number int
 	room   int
 	closed bool
 	queue  []int
@@ -42,13 +43,14 @@ type wishClause struct {
 }
 
 type lane struct {
-	w     *world
-	yield func(wish) bool
-	next  func() (wish, bool)
-	stop  func()
-	wants wish
-	gone  bool
-	open  int
+	w      *world
+	number int
+	yield  func(wish) bool
+	next   func() (wish, bool)
+	stop   func()
+	wants  wish
+	gone   bool
+	open   int
 	// What the move told: a panic's code, the case that was picked, and what it received.
 	code, place, got int
 }
@@ -56,6 +58,7 @@ type lane struct {
 type world struct {
 	file  impl.Node
 	lanes []*lane
+	pipes int
 	left  int
 	spent bool
 	run   impl.Run
@@ -80,8 +83,27 @@ func (s *scope) find(name string) *value {
 	return s.has[name]
 }
 
+// A deed is what a move does, and whose, at which places of selects, and by which pipe.
+type deed struct {
+	what     string
+	by, with int
+	at, to   int
+	pipe, n  int
+}
+
+// A choice is a move that can be picked.
+type choice struct {
+	deed
+	do func()
+}
+
 // secondRun is what RunTest should answer for a tree that checks.
 func secondRun(file impl.Node, test string, script []int, steps int) impl.Run {
+	return watchedRun(file, test, script, steps, func([]choice) {})
+}
+
+// watchedRun shows the moves ahead of each pick.
+func watchedRun(file impl.Node, test string, script []int, steps int, watch func([]choice)) impl.Run {
 	w := &world{file: file, left: steps}
 	w.start(test, nil)
 	for w.run.Kind == 0 {
@@ -98,7 +120,8 @@ func secondRun(file impl.Node, test string, script []int, steps int) impl.Run {
 			}
 			w.run.Picks, w.run.Widths = append(w.run.Picks, pick), append(w.run.Widths, len(moves))
 			w.left--
-			moves[pick]()
+			watch(moves)
+			moves[pick].do()
 		}
 	}
 	for _, l := range w.lanes {
@@ -108,7 +131,7 @@ func secondRun(file impl.Node, test string, script []int, steps int) impl.Run {
 }
 
 func (w *world) start(function string, arguments []value) {
-	l := &lane{w: w}
+	l := &lane{w: w, number: len(w.lanes)}
 	l.next, l.stop = iter.Pull(func(yield func(wish) bool) {
 		defer func() {
 			if p := recover(); p != nil && p != any(halted{}) {
@@ -152,8 +175,8 @@ func (l *lane) quietStep() {
 	}
 }
 
-func (w *world) moves() []func() {
-	var list []func()
+func (w *world) moves() []choice {
+	var list []choice
 	for _, l := range w.lanes {
 		if l.gone {
 			continue
@@ -163,33 +186,38 @@ func (w *world) moves() []func() {
 			list = append(list, w.choices(l)...)
 		case "nothing":
 		default:
-			list = append(list, func() { w.plain(l) })
+			pipe := -1
+			if l.wants.c != nil {
+				pipe = l.wants.c.number
+			}
+			list = append(list, choice{deed{what: l.wants.what, by: l.number, with: -1, pipe: pipe, n: l.wants.n}, func() { w.plain(l) }})
 		}
 	}
 	return list
 }
 
-func (w *world) choices(l *lane) []func() {
-	var list []func()
+func (w *world) choices(l *lane) []choice {
+	var list []choice
 	part := false
 	for _, c := range l.wants.clauses {
+		what := map[bool]string{true: "send", false: "receive"}[c.send]
 		switch {
 		case c.send && (c.c.closed || len(c.c.queue) < c.c.room), !c.send && (c.c.closed || len(c.c.queue) > 0):
-			list = append(list, func() { w.alone(l, c) })
+			list = append(list, choice{deed{what, l.number, -1, c.place, -1, c.c.number, c.n}, func() { w.alone(l, c) }})
 		case c.c.room == 0 && c.send:
 			w.eachPartner(l, c, func(other *lane, o wishClause) {
-				list = append(list, func() {
+				list = append(list, choice{deed{what, l.number, other.number, c.place, o.place, c.c.number, c.n}, func() {
 					l.place, other.place, other.got = c.place, o.place, c.n
 					l.goOn()
 					other.goOn()
-				})
+				}})
 			})
 		case c.c.room == 0:
 			w.eachPartner(l, c, func(*lane, wishClause) { part = true })
 		}
 	}
 	if len(list) == 0 && !part && l.wants.hasDefault {
-		list = append(list, func() { l.place = -1; l.goOn() })
+		list = append(list, choice{deed{what: "default", by: l.number, with: -1, pipe: -1}, func() { l.place = -1; l.goOn() }})
 	}
 	return list
 }
@@ -445,7 +473,8 @@ func (b *body) work(n impl.Node, names *scope) value {
 		if room < 0 || room > impl.MaxCap {
 			panic(thrown{code: impl.PnMake})
 		}
-		return value{c: &pipe{room: room}}
+		b.w.pipes++
+		return value{c: &pipe{number: b.w.pipes, room: room}}
 	case impl.NdUnary:
 		v := b.work(n.Kids[0], names).n
 		if n.Name == "!" {
