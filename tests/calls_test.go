@@ -101,6 +101,11 @@ type answers struct {
 	codes     [6]int
 	same      bool
 	within    [2]int
+	mutants   []impl.Mutant
+	made      []impl.Node
+	madeCodes []int
+	differ    [][2]int
+	nodes     []impl.Node
 }
 
 func callAll(text string, code int) answers {
@@ -124,7 +129,24 @@ func callAll(text string, code int) answers {
 	}
 	a.same = impl.SameSeen(first, impl.Seen{Kind: code, Trace: a.types})
 	a.within[0], a.within[1] = impl.Within(a.reports[2].List, []impl.Seen{first})
+	a.mutate(code)
 	return a
+}
+
+// mutate asks for some mutants of the tree, and for what is none, and for nodes by number.
+func (a *answers) mutate(code int) {
+	list, listCode := impl.Mutants(a.tree)
+	a.mutants, a.madeCodes = list, []int{listCode}
+	for i, m := range append(slices.Clone(list), impl.Mutant{}, impl.Mutant{Kind: code, Node: code, Alt: code}) {
+		if i%10 > 0 && i < len(list) {
+			continue
+		}
+		made, madeCode := impl.Mutate(a.tree, m)
+		at, differCode := impl.Differ(a.tree, made)
+		node, nodeCode := impl.NodeAt(made, at+code)
+		a.made, a.nodes = append(a.made, made), append(a.nodes, node)
+		a.madeCodes, a.differ = append(a.madeCodes, madeCode, nodeCode), append(a.differ, [2]int{at, differCode})
+	}
 }
 
 func TestAlikeArgumentsHaveAlikeAnswers(t *testing.T) {
@@ -384,6 +406,103 @@ func TestTreesAreNewMemory(t *testing.T) {
 	}
 }
 
+// wantApart asks that no list of some trees shares memory with another one, behind its end neither.
+func wantApart(t *testing.T, trees ...impl.Node) {
+	t.Helper()
+	seen := map[*impl.Node]bool{}
+	for _, n := range trees {
+		wholeLists(n, func(list []impl.Node) {
+			for i := range list {
+				if seen[&list[i]] {
+					t.Fatal("two lists share memory")
+				}
+				seen[&list[i]] = true
+			}
+		})
+	}
+}
+
+// wantNamesApart asks that no name of a tree lies in the memory of another one's names.
+func wantNamesApart(t *testing.T, a, b impl.Node) {
+	t.Helper()
+	for _, one := range inOrder(a) {
+		for _, other := range inOrder(b) {
+			if within(one.Name, other.Name) {
+				t.Fatalf("the name %s lies in other memory", one.Name)
+			}
+		}
+	}
+}
+
+func TestMutantsAreNewMemory(t *testing.T) {
+	for _, text := range []string{wholeText, runText} {
+		n := treeOf(t, text)
+		kept := show(n)
+		list, _ := impl.Mutants(n)
+		second, _ := impl.Mutants(n)
+		for _, m := range slices.Clone(list) {
+			made, _ := impl.Mutate(n, m)
+			again, _ := impl.Mutate(n, m)
+			wantApart(t, n, made, again)
+			wantNamesApart(t, n, made)
+			text := show(again)
+			wholeLists(made, func(list []impl.Node) {
+				for i := range list {
+					list[i] = impl.Node{Kind: 1, N: 7, Name: "spoilt"}
+				}
+			})
+			if third, _ := impl.Mutate(n, m); show(again) != text || show(third) != text || show(n) != kept {
+				t.Fatalf("what was written into %v is seen elsewhere", m)
+			}
+		}
+		for i := range list[:cap(list)] {
+			list[:cap(list)][i] = impl.Mutant{Kind: -9}
+		}
+		if third, _ := impl.Mutants(n); len(third) == 0 || !slices.Equal(second, third) {
+			t.Error("what was written into a list of mutants is seen in another one")
+		}
+	}
+}
+
+func TestNodesAreNewMemory(t *testing.T) {
+	n := treeOf(t, wholeText)
+	kept := show(n)
+	for at := range impl.Size(n) {
+		got, _ := impl.NodeAt(n, at)
+		again, _ := impl.NodeAt(n, at)
+		wantApart(t, n, got, again)
+		wantNamesApart(t, n, got)
+		text := show(again)
+		wholeLists(got, func(list []impl.Node) {
+			for i := range list {
+				list[i] = impl.Node{Kind: 1, N: 7, Name: "spoilt"}
+			}
+		})
+		if show(again) != text || show(n) != kept {
+			t.Fatalf("what was written into node %d is seen elsewhere", at)
+		}
+	}
+}
+
+// Lists that stand twice in what is handed in are two in what is handed back.
+func TestListsThatStandTwiceBecomeTwo(t *testing.T) {
+	sum := twoSides("+", whole(1), whole(2))
+	block := blockOf(node(impl.NdPrint, sum), node(impl.NdPrint, sum))
+	n := fileOf(node(impl.NdIf, twoSides("<", sum, sum), block, blockOf(block)), block, node(impl.NdFor, block))
+	list, code := impl.Mutants(n)
+	if code != impl.OK || len(list) < 50 {
+		t.Fatalf("%d mutants with code %d", len(list), code)
+	}
+	for _, m := range list {
+		made, _ := impl.Mutate(n, m)
+		wantApart(t, made)
+	}
+	for at := range impl.Size(n) {
+		got, _ := impl.NodeAt(n, at)
+		wantApart(t, got)
+	}
+}
+
 // within says that a text lies in the memory of another one.
 func within(part, whole string) bool {
 	p, w := uintptr(unsafe.Pointer(unsafe.StringData(part))), uintptr(unsafe.Pointer(unsafe.StringData(whole)))
@@ -447,6 +566,36 @@ func wantRunsOfAlikeTrees(t *testing.T, trees ...impl.Node) {
 		for _, n := range trees[1:] {
 			if again, other := way.call(n, "TestA", 60, 15); other != code || !reflect.DeepEqual(again, first) {
 				t.Errorf("alike trees have other reports: %v with code %d and %v with code %d", first, code, again, other)
+			}
+		}
+	}
+}
+
+func wantMutantsOfAlikeTrees(t *testing.T, trees ...impl.Node) {
+	t.Helper()
+	first, code := impl.Mutants(trees[0])
+	asked := append(slices.Clone(first), impl.Mutant{Kind: 1, Node: 4}, impl.Mutant{Kind: 9, Node: -1})
+	for _, n := range trees[1:] {
+		if again, other := impl.Mutants(n); other != code || !slices.Equal(again, first) {
+			t.Errorf("alike trees have other mutants: %v with code %d and %v with code %d", first, code, again, other)
+		}
+		at, differs := impl.Differ(trees[0], n)
+		if right := impl.TreeOK(n); at != 0 || right != (differs == impl.ErrNone) || !right && differs != impl.ErrBad {
+			t.Errorf("alike trees differ at %d with code %d", at, differs)
+		}
+		for i, m := range asked {
+			if i%7 > 0 && i < len(first) {
+				continue
+			}
+			one, code := impl.Mutate(trees[0], m)
+			two, other := impl.Mutate(n, m)
+			if !reflect.DeepEqual(one, two) || code != other {
+				t.Errorf("alike trees have other mutants by %v: codes %d and %d", m, code, other)
+			}
+			one, code = impl.NodeAt(trees[0], m.Node)
+			two, other = impl.NodeAt(n, m.Node)
+			if !reflect.DeepEqual(one, two) || code != other {
+				t.Errorf("alike trees have other nodes at %d: codes %d and %d", m.Node, code, other)
 			}
 		}
 	}
@@ -541,6 +690,7 @@ func TestTreesHandedInAreNotChanged(t *testing.T) {
 			t.Error("what is behind the end of a list has a part in the text")
 		}
 		wantRunsOfAlikeTrees(t, given, same, tree)
+		wantMutantsOfAlikeTrees(t, given, same, tree)
 		if !reflect.DeepEqual(given, withRoom(tree)) {
 			t.Error("a tree was changed")
 		}
