@@ -71,7 +71,11 @@ func callTrees() []impl.Node {
 	}
 	for _, text := range callTexts {
 		n, _, _ := impl.Parse(text)
-		list = append(list, n)
+		w, _ := impl.Weave(n)
+		list = append(list, n, w)
+	}
+	for _, other := range anyNodes() {
+		list = append(list, printing(pickOf(1, whole(1), other)), pickOf(1, printing(pickOf(2, whole(1), whole(2), other)), other), pickOf(2, printing(), other))
 	}
 	return list
 }
@@ -106,6 +110,9 @@ type answers struct {
 	madeCodes []int
 	differ    [][2]int
 	nodes     []impl.Node
+	trees     []impl.Node
+	wovenRuns []impl.Run
+	weaving   []int
 }
 
 func callAll(text string, code int) answers {
@@ -130,6 +137,7 @@ func callAll(text string, code int) answers {
 	a.same = impl.SameSeen(first, impl.Seen{Kind: code, Trace: a.types})
 	a.within[0], a.within[1] = impl.Within(a.reports[2].List, []impl.Seen{first})
 	a.mutate(code)
+	a.weave(code)
 	return a
 }
 
@@ -146,6 +154,25 @@ func (a *answers) mutate(code int) {
 		node, nodeCode := impl.NodeAt(made, at+code)
 		a.made, a.nodes = append(a.made, made), append(a.nodes, node)
 		a.madeCodes, a.differ = append(a.madeCodes, madeCode, nodeCode), append(a.differ, [2]int{at, differCode})
+	}
+}
+
+// weave asks for the woven tree, and for what is chosen of it, and of the tree itself.
+func (a *answers) weave(code int) {
+	w, wovenCode := impl.Weave(a.tree)
+	a.trees, a.weaving = []impl.Node{w}, []int{wovenCode}
+	for _, tree := range []impl.Node{w, a.tree} {
+		count, picksCode := impl.Picks(tree)
+		a.weaving = append(a.weaving, count, picksCode)
+		if impl.WovenOK(tree) {
+			a.weaving = append(a.weaving, -1)
+		}
+		for _, selector := range []int{0, code, count, count + 1} {
+			chosen, chosenCode := impl.Choose(tree, selector)
+			run, runCode := impl.RunWoven(tree, selector, "TestA", []int{code, 1, 2, 3}, 60)
+			a.trees, a.wovenRuns = append(a.trees, chosen), append(a.wovenRuns, run)
+			a.weaving = append(a.weaving, chosenCode, runCode)
+		}
 	}
 }
 
@@ -422,38 +449,59 @@ func wantApart(t *testing.T, trees ...impl.Node) {
 	}
 }
 
+// namesIn lists the names of a tree's nodes, but for those that are empty.
+func namesIn(n impl.Node, list []string) []string {
+	if n.Name != "" {
+		list = append(list, n.Name)
+	}
+	for _, kid := range n.Kids {
+		list = namesIn(kid, list)
+	}
+	return list
+}
+
 // wantNamesApart asks that no name of a tree lies in the memory of another one's names.
 func wantNamesApart(t *testing.T, a, b impl.Node) {
 	t.Helper()
-	for _, one := range inOrder(a) {
-		for _, other := range inOrder(b) {
-			if within(one.Name, other.Name) {
-				t.Fatalf("the name %s lies in other memory", one.Name)
+	others := namesIn(b, nil)
+	for _, one := range namesIn(a, nil) {
+		for _, other := range others {
+			if within(one, other) {
+				t.Fatalf("the name %s lies in other memory", one)
 			}
 		}
+	}
+}
+
+// wantNewTrees asks that a tree which a call answers is new memory, whatever is written into it.
+func wantNewTrees(t *testing.T, what string, given impl.Node, call func(impl.Node) (impl.Node, int)) {
+	t.Helper()
+	kept := emptyAsNil(given)
+	first, code := call(given)
+	again, _ := call(given)
+	if code != impl.OK {
+		t.Fatalf("%s has code %d", what, code)
+	}
+	wantApart(t, given, first, again)
+	wantNamesApart(t, given, first)
+	want := emptyAsNil(again)
+	wholeLists(first, func(list []impl.Node) {
+		for i := range list {
+			list[i] = impl.Node{Kind: 1, N: 7, Name: "spoilt"}
+		}
+	})
+	if third, _ := call(given); !alike(again, want) || !alike(third, want) || !alike(given, kept) {
+		t.Fatalf("what was written into %s is seen elsewhere", what)
 	}
 }
 
 func TestMutantsAreNewMemory(t *testing.T) {
 	for _, text := range []string{wholeText, runText} {
 		n := treeOf(t, text)
-		kept := show(n)
 		list, _ := impl.Mutants(n)
 		second, _ := impl.Mutants(n)
 		for _, m := range slices.Clone(list) {
-			made, _ := impl.Mutate(n, m)
-			again, _ := impl.Mutate(n, m)
-			wantApart(t, n, made, again)
-			wantNamesApart(t, n, made)
-			text := show(again)
-			wholeLists(made, func(list []impl.Node) {
-				for i := range list {
-					list[i] = impl.Node{Kind: 1, N: 7, Name: "spoilt"}
-				}
-			})
-			if third, _ := impl.Mutate(n, m); show(again) != text || show(third) != text || show(n) != kept {
-				t.Fatalf("what was written into %v is seen elsewhere", m)
-			}
+			wantNewTrees(t, "a mutant", n, func(n impl.Node) (impl.Node, int) { return impl.Mutate(n, m) })
 		}
 		for i := range list[:cap(list)] {
 			list[:cap(list)][i] = impl.Mutant{Kind: -9}
@@ -466,20 +514,56 @@ func TestMutantsAreNewMemory(t *testing.T) {
 
 func TestNodesAreNewMemory(t *testing.T) {
 	n := treeOf(t, wholeText)
-	kept := show(n)
 	for at := range impl.Size(n) {
-		got, _ := impl.NodeAt(n, at)
-		again, _ := impl.NodeAt(n, at)
-		wantApart(t, n, got, again)
-		wantNamesApart(t, n, got)
-		text := show(again)
-		wholeLists(got, func(list []impl.Node) {
-			for i := range list {
-				list[i] = impl.Node{Kind: 1, N: 7, Name: "spoilt"}
+		wantNewTrees(t, "a node", n, func(n impl.Node) (impl.Node, int) { return impl.NodeAt(n, at) })
+	}
+}
+
+func TestWovenTreesAreNewMemory(t *testing.T) {
+	for _, text := range []string{wholeText, runText, "", "func f() int { return f() }"} {
+		n := treeOf(t, text)
+		wantNewTrees(t, "a woven tree", n, impl.Weave)
+		for _, w := range []impl.Node{n, woven(t, n)} {
+			count, _ := impl.Picks(w)
+			for selector := 0; selector <= count; selector += 1 + count/40 {
+				wantNewTrees(t, "a chosen tree", w, func(w impl.Node) (impl.Node, int) { return impl.Choose(w, selector) })
 			}
-		})
-		if show(again) != text || show(n) != kept {
-			t.Fatalf("what was written into node %d is seen elsewhere", at)
+		}
+	}
+	// What is picked as a whole is new memory, too, whatever it is.
+	for _, other := range anyNodes() {
+		wantNewTrees(t, "a picked file", pickOf(1, printing(), other), func(w impl.Node) (impl.Node, int) { return impl.Choose(w, 1) })
+	}
+}
+
+func TestWovenRunsAreNewMemory(t *testing.T) {
+	w := woven(t, treeOf(t, runText))
+	script := []int{1, 2, 3, 1, 2, 3, -4, -5}[:6]
+	for _, selector := range []int{0, 5, 11} {
+		first, code := impl.RunWoven(w, selector, "TestA", script, 300)
+		second, _ := impl.RunWoven(w, selector, "TestA", script, 300)
+		kept := fmt.Sprint(first)
+		seenAt := map[*int]bool{}
+		for _, list := range [][]int{script, first.Trace, first.Picks, first.Widths, second.Trace, second.Picks, second.Widths} {
+			list = list[:cap(list)]
+			for i := range list {
+				if seenAt[&list[i]] {
+					t.Fatal("two lists of a run share memory")
+				}
+				seenAt[&list[i]] = true
+			}
+		}
+		if code != impl.OK || len(first.Picks) < 3 {
+			t.Fatalf("the run is %v with code %d", first, code)
+		}
+		for _, list := range [][]int{first.Trace, first.Picks, first.Widths} {
+			for i := range list[:cap(list)] {
+				list[:cap(list)][i] = -9
+			}
+		}
+		third, _ := impl.RunWoven(w, selector, "TestA", script, 300)
+		if fmt.Sprint(second) != kept || fmt.Sprint(third) != kept || !slices.Equal(script[:8], []int{1, 2, 3, 1, 2, 3, -4, -5}) {
+			t.Error("what was written into a run is seen elsewhere")
 		}
 	}
 }
@@ -499,6 +583,15 @@ func TestListsThatStandTwiceBecomeTwo(t *testing.T) {
 	}
 	for at := range impl.Size(n) {
 		got, _ := impl.NodeAt(n, at)
+		wantApart(t, got)
+	}
+	wantApart(t, woven(t, n))
+	number := pickOf(1, sum, sum, sum)
+	for selector := range 3 {
+		got, code := impl.Choose(fileOf(node(impl.NdIf, number, block, blockOf(block)), block), selector)
+		if code != impl.OK {
+			t.Errorf("chosen by %d has code %d", selector, code)
+		}
 		wantApart(t, got)
 	}
 }
@@ -601,6 +694,22 @@ func wantMutantsOfAlikeTrees(t *testing.T, trees ...impl.Node) {
 	}
 }
 
+func wantWovenOfAlikeTrees(t *testing.T, trees ...impl.Node) {
+	t.Helper()
+	var all []answers
+	for _, n := range trees {
+		a := answers{tree: n}
+		a.weave(2)
+		a.tree = impl.Node{}
+		all = append(all, a)
+	}
+	for _, a := range all[1:] {
+		if !reflect.DeepEqual(a, all[0]) {
+			t.Error("alike trees are woven, chosen or run as others")
+		}
+	}
+}
+
 // reportLists are all lists of numbers of a report, with what is behind their ends.
 func reportLists(r impl.Report) [][]int {
 	var lists [][]int
@@ -691,6 +800,7 @@ func TestTreesHandedInAreNotChanged(t *testing.T) {
 		}
 		wantRunsOfAlikeTrees(t, given, same, tree)
 		wantMutantsOfAlikeTrees(t, given, same, tree)
+		wantWovenOfAlikeTrees(t, given, same, tree)
 		if !reflect.DeepEqual(given, withRoom(tree)) {
 			t.Error("a tree was changed")
 		}
