@@ -113,6 +113,10 @@ type answers struct {
 	trees     []impl.Node
 	wovenRuns []impl.Run
 	weaving   []int
+	verdicts  []impl.Cell
+	matrices  []impl.Matrix
+	matrixEnd []int
+	tables    []string
 }
 
 func callAll(text string, code int) answers {
@@ -138,6 +142,7 @@ func callAll(text string, code int) answers {
 	a.within[0], a.within[1] = impl.Within(a.reports[2].List, []impl.Seen{first})
 	a.mutate(code)
 	a.weave(code)
+	a.judge(code)
 	return a
 }
 
@@ -173,6 +178,24 @@ func (a *answers) weave(code int) {
 			a.trees, a.wovenRuns = append(a.trees, chosen), append(a.wovenRuns, run)
 			a.weaving = append(a.weaving, chosenCode, runCode)
 		}
+	}
+}
+
+// judge asks for verdicts, for the matrix of the tree, and for texts of matrices, also of such as are wrong.
+func (a *answers) judge(code int) {
+	for i, base := range a.reports {
+		verdict, script := impl.Judge(base, a.reports[(i+1)%len(a.reports)])
+		a.verdicts = append(a.verdicts, impl.Cell{Verdict: verdict, Script: script})
+	}
+	for _, runs := range []int{20, code} {
+		m, matrixCode := impl.MatrixOf(a.tree, 60, runs)
+		wrong := m
+		wrong.Mutants = m.Mutants[:len(m.Mutants)/2]
+		for _, each := range []impl.Matrix{m, wrong, {Cells: m.Cells}, {Killed: code, All: runs}} {
+			text, textCode := impl.MatrixText(each)
+			a.tables, a.matrixEnd = append(a.tables, text), append(a.matrixEnd, textCode)
+		}
+		a.matrices, a.matrixEnd = append(a.matrices, m), append(a.matrixEnd, matrixCode)
 	}
 }
 
@@ -710,6 +733,16 @@ func wantWovenOfAlikeTrees(t *testing.T, trees ...impl.Node) {
 	}
 }
 
+func wantMatrixOfAlikeTrees(t *testing.T, trees ...impl.Node) {
+	t.Helper()
+	first, code := impl.MatrixOf(trees[0], 40, 10)
+	for _, n := range trees[1:] {
+		if again, other := impl.MatrixOf(n, 40, 10); other != code || !reflect.DeepEqual(again, first) {
+			t.Errorf("alike trees have other matrices: %v with code %d and %v with code %d", first, code, again, other)
+		}
+	}
+}
+
 // reportLists are all lists of numbers of a report, with what is behind their ends.
 func reportLists(r impl.Report) [][]int {
 	var lists [][]int
@@ -777,6 +810,114 @@ func TestSeensHandedInAreNotChanged(t *testing.T) {
 	}
 }
 
+// wantNumbersApart asks that no list of numbers shares memory with another one, behind its end neither.
+func wantNumbersApart(t *testing.T, lists ...[]int) {
+	t.Helper()
+	seenAt := map[*int]bool{}
+	for _, list := range lists {
+		list = list[:cap(list)]
+		for i := range list {
+			if seenAt[&list[i]] {
+				t.Fatal("two lists of numbers share memory")
+			}
+			seenAt[&list[i]] = true
+		}
+	}
+}
+
+func TestMatricesAreNewMemory(t *testing.T) {
+	n := treeOf(t, "func put(c chan int, a int) { c <- a }\nfunc TestA() { c := make(chan int); go put(c, 3); print(<-c) }\nfunc TestB() { c := make(chan int, 2); put(c, 4); print(<-c) }\nfunc TestC() {}")
+	kept := emptyAsNil(n)
+	first, code := impl.MatrixOf(n, 50, 20)
+	second, _ := impl.MatrixOf(n, 50, 20)
+	want := fmt.Sprint(first)
+	if code != impl.OK || first.Killed < 5 || len(first.Tests) != 3 {
+		t.Fatalf("the matrix is %v with code %d", first, code)
+	}
+	var scripts [][]int
+	for _, m := range []impl.Matrix{first, second} {
+		for _, cell := range m.Cells {
+			scripts = append(scripts, cell.Script)
+		}
+		for i, test := range m.Tests {
+			if within(test, n.Kids[i+1].Name) {
+				t.Errorf("the name %s lies in other memory", test)
+			}
+		}
+	}
+	wantNumbersApart(t, scripts...)
+	for _, script := range scripts[:len(first.Cells)] {
+		for i := range script[:cap(script)] {
+			script[:cap(script)][i] = -9
+		}
+	}
+	for i := range first.Cells[:cap(first.Cells)] {
+		first.Cells[:cap(first.Cells)][i] = impl.Cell{Mutant: -9}
+	}
+	for i := range first.Mutants[:cap(first.Mutants)] {
+		first.Mutants[:cap(first.Mutants)][i] = impl.Mutant{Kind: -9}
+	}
+	for i := range first.Tests[:cap(first.Tests)] {
+		first.Tests[:cap(first.Tests)][i] = "spoilt"
+	}
+	third, _ := impl.MatrixOf(n, 50, 20)
+	if fmt.Sprint(second) != want || fmt.Sprint(third) != want || !alike(n, kept) {
+		t.Error("what was written into a matrix is seen elsewhere")
+	}
+}
+
+func TestVerdictsAreNewMemory(t *testing.T) {
+	made := func() (base, mutant impl.Report) {
+		list := []impl.Seen{{Kind: 1, Trace: []int{1, 2, 3}[:2], Script: []int{4, 5}[:1]}, {Kind: 2, Trace: []int{6, 7}[:1], Script: []int{0, 1, 2, -9}[:3]}, {Kind: 3, Script: []int{8}}}
+		return impl.Report{List: list[:1:2], Exhaustive: true, Runs: 1}, impl.Report{List: list[:2], Exhaustive: true, Runs: 2}
+	}
+	base, mutant := made()
+	verdict, script := impl.Judge(base, mutant)
+	_, again := impl.Judge(base, mutant)
+	if verdict != impl.VdKilled || !slices.Equal(script, []int{0, 1, 2}) {
+		t.Fatalf("the verdict is %d with %v", verdict, script)
+	}
+	wantNumbersApart(t, script, again, mutant.List[1].Script, mutant.List[0].Script)
+	for i := range script[:cap(script)] {
+		script[:cap(script)][i] = -7
+	}
+	wantBase, wantMutant := made()
+	same := reflect.DeepEqual(base, wantBase) && reflect.DeepEqual(mutant, wantMutant) && reflect.DeepEqual(mutant.List[:3], wantMutant.List[:3])
+	if !same || !slices.Equal(mutant.List[1].Script[:4], []int{0, 1, 2, -9}) || !slices.Equal(mutant.List[0].Trace[:3], []int{1, 2, 3}) || !slices.Equal(again, []int{0, 1, 2}) {
+		t.Error("what was written into a verdict's script is seen elsewhere, or a report was changed")
+	}
+	// What is behind the end of a list has no part in it.
+	if verdict, _ := impl.Judge(base, impl.Report{List: mutant.List[:1], Exhaustive: true}); verdict != impl.VdSurvived {
+		t.Error("what is behind the end of a list has a part in the verdict", verdict)
+	}
+}
+
+func TestMatricesHandedInAreNotChanged(t *testing.T) {
+	made := func() impl.Matrix {
+		return impl.Matrix{
+			Tests: []string{"TestA", "TestB"}[:1], Mutants: []impl.Mutant{{Kind: 1}, {Kind: 2}}[:1],
+			Cells: []impl.Cell{{Verdict: 1, Script: []int{1, 2, 3}[:2]}, {Verdict: 7}}[:1],
+		}
+	}
+	m := made()
+	text, code := impl.MatrixText(m)
+	if code != impl.OK || text != "op 0 0 TestA killed 1 2\nscore 0 0\n" {
+		t.Errorf("the text is %q with code %d", text, code)
+	}
+	want := made()
+	if !reflect.DeepEqual(m, want) || !reflect.DeepEqual(m.Cells[:2], want.Cells[:2]) || !reflect.DeepEqual(m.Mutants[:2], want.Mutants[:2]) || !reflect.DeepEqual(m.Tests[:2], want.Tests[:2]) || m.Cells[0].Script[:3][2] != 3 {
+		t.Error("a matrix was changed")
+	}
+	if again, _ := impl.MatrixText(m); again != text || within(text, again) || within(text, m.Tests[0]) {
+		t.Error("two texts share memory")
+	}
+	// What is behind the end of a list is none.
+	for _, cell := range []impl.Cell{{Mutant: 1}, {Test: 1}} {
+		m.Cells[0] = cell
+		wantNoMatrixText(t, "a place behind the end of a list", m)
+	}
+}
+
 func TestTreesHandedInAreNotChanged(t *testing.T) {
 	for _, tree := range callTrees() {
 		given, same := withRoom(tree), withRoom(tree)
@@ -801,6 +942,7 @@ func TestTreesHandedInAreNotChanged(t *testing.T) {
 		wantRunsOfAlikeTrees(t, given, same, tree)
 		wantMutantsOfAlikeTrees(t, given, same, tree)
 		wantWovenOfAlikeTrees(t, given, same, tree)
+		wantMatrixOfAlikeTrees(t, given, same, tree)
 		if !reflect.DeepEqual(given, withRoom(tree)) {
 			t.Error("a tree was changed")
 		}

@@ -27,16 +27,20 @@ func (s *sketcher) file() string {
 		s.next = i + 1
 		text.WriteString("func w" + strconv.Itoa(i) + "(c chan int, d chan int, e chan int) {\n" + s.statements(1, 3) + "}\n")
 	}
+	return text.String() + s.test("TestA")
+}
+
+func (s *sketcher) test(name string) string {
+	var text strings.Builder
 	s.next = 0
-	text.WriteString("func TestA() {\n")
+	text.WriteString("func " + name + "() {\n")
 	for _, name := range []string{"c", "d", "e"} {
 		text.WriteString(name + " := " + s.made() + "\n")
 	}
 	for range 1 + s.draw.Intn(3) {
 		text.WriteString("go " + s.call() + "\n" + s.one("", "", s.statement()+"\n"))
 	}
-	text.WriteString(s.statements(0, 3) + s.one("", "select {}\n", "select {}\n", "<-c\n") + "}\n")
-	return text.String()
+	return text.String() + s.statements(0, 3) + s.one("", "select {}\n", "select {}\n", "<-c\n") + "}\n"
 }
 
 func (s *sketcher) made() string {
